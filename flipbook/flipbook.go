@@ -2,8 +2,11 @@
 package flipbook
 
 import (
+	"errors"
+
 	"flipbook/api"
 	"flipbook/colour"
+	"flipbook/line"
 )
 
 // Turn tells a colour's brightness and its two hues (P3).
@@ -19,10 +22,64 @@ func Back(c [3]int) (api.Pixel, api.Errno) {
 }
 
 // Squeeze packs bits (P5).
-func Squeeze(bits []api.Bit) (string, api.Errno) { return "", api.OK }
+func Squeeze(bits []api.Bit) (string, api.Errno) {
+	if len(bits) > api.MaxBits {
+		return "", api.ErrLong
+	}
+	for _, b := range bits {
+		if !line.IsContext(b.Context) || b.Value != 0 && b.Value != 1 {
+			return "", api.ErrCode
+		}
+	}
+	w := line.NewWriter()
+	for _, b := range bits {
+		w.Put(b.Context, b.Value)
+	}
+	return w.End(), api.OK
+}
 
 // Stretch unpacks the bits of these contexts (P6).
-func Stretch(b string, contexts []int) ([]int, api.Errno) { return nil, api.OK }
+func Stretch(b string, contexts []int) ([]int, api.Errno) {
+	if len(contexts) > api.MaxBits {
+		return nil, api.ErrLong
+	}
+	for _, k := range contexts {
+		if !line.IsContext(k) {
+			return nil, api.ErrCode
+		}
+	}
+	values, err := readBits(b, contexts)
+	if err != nil {
+		return nil, errno(err)
+	}
+	return values, api.OK
+}
+
+// readBits reads a whole line whose contexts are known ahead.
+func readBits(b string, contexts []int) ([]int, error) {
+	r, err := line.NewReader(b)
+	if err != nil {
+		return nil, err
+	}
+	values := make([]int, len(contexts))
+	for i, k := range contexts {
+		if values[i], err = r.Bit(k); err != nil {
+			return nil, err
+		}
+	}
+	return values, r.End()
+}
+
+// errno tells the number of what is wrong within a line.
+func errno(err error) api.Errno {
+	switch {
+	case errors.Is(err, line.ErrShort):
+		return api.ErrShort
+	case errors.Is(err, line.ErrTrail):
+		return api.ErrTrail
+	}
+	return api.ErrCode
+}
 
 // Decode unpacks a film; where a fault lies (P7).
 func Decode(b string) (api.Film, api.Place, api.Errno) { return api.Film{}, api.Place{}, api.OK }

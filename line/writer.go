@@ -1,0 +1,60 @@
+package line
+
+import "math/bits"
+
+// Writer packs bits into a line, one by one.
+type Writer struct {
+	out       []byte
+	low, span uint32
+	chances   chances
+}
+
+// NewWriter begins a line.
+func NewWriter() *Writer {
+	return &Writer{span: whole, chances: newChances()}
+}
+
+// Put packs the next bit, of the context k.
+func (w *Writer) Put(k, bit int) {
+	cut := w.chances.cut(w.span, k)
+	if bit == 0 {
+		w.span = cut
+	} else {
+		w.raise(cut)
+		w.span -= cut
+	}
+	w.chances.learn(k, bit)
+	for w.span < least {
+		w.out = append(w.out, byte(w.low>>24))
+		w.low <<= 8
+		w.span <<= 8
+	}
+}
+
+// End tells the line's bytes: those that the reader of these bits takes, as
+// many bytes as it has shifted, and the four with which it began.
+func (w *Writer) End() string {
+	n := w.low
+	return string(w.out) + string([]byte{byte(n >> 24), byte(n >> 16), byte(n >> 8), byte(n)})
+}
+
+// raise moves the lowest code up. Its sum may not fit; what is over goes into
+// the bytes that are out already.
+func (w *Writer) raise(by uint32) {
+	low, over := bits.Add32(w.low, by, 0)
+	w.low = low
+	if over != 0 {
+		w.carry()
+	}
+}
+
+// carry never runs out of bytes: all bytes as one number stay below the range
+// of the begin.
+func (w *Writer) carry() {
+	for i := len(w.out) - 1; i >= 0; i-- {
+		w.out[i]++
+		if w.out[i] != 0 {
+			return
+		}
+	}
+}
