@@ -1,6 +1,7 @@
 package flipbook_test
 
 import (
+	"fmt"
 	"math"
 	"math/rand"
 	"slices"
@@ -10,6 +11,12 @@ import (
 	"flipbook/api"
 	"flipbook/flipbook"
 )
+
+// brief: the begin of a value's text.
+func brief(v any) string {
+	s := fmt.Sprint(v)
+	return s[:min(len(s), 80)]
+}
 
 // row: the bits of a text of 0 and 1, with the contexts that follow each
 // other by a step.
@@ -48,58 +55,88 @@ func checkBack(t *testing.T, name string, l []api.Bit) string {
 	}
 	k := contextsOf(l)
 	if got, e := flipbook.Stretch(b, k); e != api.OK || !slices.Equal(got, valuesOf(l)) {
-		t.Errorf("P5: %s: back %.60v, %d", name, got, e)
+		t.Errorf("P5: %s: back %s, %d", name, brief(got), e)
 	}
 	if got, e := flipbook.Stretch(b[:len(b)-1], k); got != nil || e != api.ErrShort {
-		t.Errorf("P6: %s, a byte less: %.60v, %d", name, got, e)
+		t.Errorf("P6: %s, a byte less: %s, %d", name, brief(got), e)
 	}
 	for _, more := range []string{"\x00", "\xff", "\x00\x00\x00\x00\x00"} {
 		if got, e := flipbook.Stretch(b+more, k); got != nil || e != api.ErrTrail {
-			t.Errorf("P6: %s, %d more: %.60v, %d", name, len(more), got, e)
+			t.Errorf("P6: %s, %d more: %s, %d", name, len(more), brief(got), e)
 		}
 	}
 	return b
 }
 
-// model reads a line by the document's words, in numbers that have room.
-func model(b string, contexts []int) ([]int, api.Errno) {
+// modelLine reads a line by the document's words, in numbers that have room.
+type modelLine struct {
+	rest       string
+	span, code int64
+	used       map[int]int64
+}
+
+func beginModel(b string) (*modelLine, api.Errno) {
 	if len(b) < 4 {
 		return nil, api.ErrShort
 	}
-	span, code, rest := int64(4294967295), int64(0), b[4:]
+	m := &modelLine{b[4:], 4294967295, 0, map[int]int64{}}
 	for i := range 4 {
-		code = code*256 + int64(b[i])
+		m.code = m.code*256 + int64(b[i])
 	}
-	if code >= span {
+	if m.code >= m.span {
 		return nil, api.ErrCode
 	}
-	used := map[int]int64{}
+	return m, api.OK
+}
+
+func (m *modelLine) bit(k int) (int, api.Errno) {
+	c, ok := m.used[k]
+	if !ok {
+		c = 2048
+	}
+	cut := m.span / 4096 * c
+	value := 0
+	if m.code < cut {
+		m.span = cut
+		m.used[k] = c + (4096-c)/32
+	} else {
+		value = 1
+		m.code -= cut
+		m.span -= cut
+		m.used[k] = c - c/32
+	}
+	for m.span < 16777216 {
+		if m.rest == "" {
+			return 0, api.ErrShort
+		}
+		m.span, m.code, m.rest = m.span*256, m.code*256+int64(m.rest[0]), m.rest[1:]
+	}
+	return value, api.OK
+}
+
+func (m *modelLine) end() api.Errno {
+	if m.rest != "" {
+		return api.ErrTrail
+	}
+	return api.OK
+}
+
+// model reads a whole line.
+func model(b string, contexts []int) ([]int, api.Errno) {
+	m, e := beginModel(b)
+	if e != api.OK {
+		return nil, e
+	}
 	var values []int
 	for _, k := range contexts {
-		c, ok := used[k]
-		if !ok {
-			c = 2048
+		v, e := m.bit(k)
+		if e != api.OK {
+			return nil, e
 		}
-		cut := span / 4096 * c
-		if code < cut {
-			values = append(values, 0)
-			span = cut
-			used[k] = c + (4096-c)/32
-		} else {
-			values = append(values, 1)
-			code -= cut
-			span -= cut
-			used[k] = c - c/32
-		}
-		for span < 16777216 {
-			if rest == "" {
-				return nil, api.ErrShort
-			}
-			span, code, rest = span*256, code*256+int64(rest[0]), rest[1:]
-		}
+		values = append(values, v)
 	}
-	if rest != "" {
-		return nil, api.ErrTrail
+	if e := m.end(); e != api.OK {
+		return nil, e
 	}
 	return values, api.OK
 }
@@ -109,7 +146,7 @@ func checkModel(t *testing.T, b string, contexts []int) {
 	t.Helper()
 	want, e := model(b, contexts)
 	if got, ge := flipbook.Stretch(b, contexts); ge != e || !slices.Equal(got, want) {
-		t.Errorf("P6: Stretch(%q, %.60v) = %.60v, %d, want %.60v, %d", b, contexts, got, ge, want, e)
+		t.Errorf("P6: Stretch(%q, %s) = %s, %d, want %s, %d", b, brief(contexts), brief(got), ge, brief(want), e)
 	}
 }
 
@@ -187,7 +224,7 @@ func TestStretchFaults(t *testing.T) {
 	} {
 		l, e := flipbook.Stretch(c.b, c.contexts)
 		if e != c.want || e != api.OK && l != nil || e == api.OK && len(l) != len(c.contexts) {
-			t.Errorf("P6: the case %d: %.60v, %d, want %d", i, l, e, c.want)
+			t.Errorf("P6: the case %d: %s, %d, want %d", i, brief(l), e, c.want)
 		}
 	}
 }

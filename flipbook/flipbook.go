@@ -6,6 +6,7 @@ import (
 
 	"flipbook/api"
 	"flipbook/colour"
+	"flipbook/film"
 	"flipbook/line"
 )
 
@@ -70,19 +71,48 @@ func readBits(b string, contexts []int) ([]int, error) {
 	return values, r.End()
 }
 
-// errno tells the number of what is wrong within a line.
+// Decode unpacks a film; where a fault lies (P7).
+func Decode(b string) (api.Film, api.Place, api.Errno) {
+	if len(b) > api.MaxBytes {
+		return api.Film{}, api.Place{}, api.ErrLong
+	}
+	f, err := film.Read(b)
+	if err != nil {
+		return api.Film{}, place(err), errno(err)
+	}
+	return f, api.Place{}, api.OK
+}
+
+// errno tells the number of what is wrong with bytes.
 func errno(err error) api.Errno {
 	switch {
+	case errors.Is(err, film.ErrHead):
+		return api.ErrHead
 	case errors.Is(err, line.ErrShort):
 		return api.ErrShort
+	case errors.Is(err, film.ErrFirst):
+		return api.ErrFirst
+	case errors.Is(err, line.ErrNumber):
+		return api.ErrNumber
+	case errors.Is(err, film.ErrVector):
+		return api.ErrVector
+	case errors.Is(err, film.ErrColour):
+		return api.ErrColour
 	case errors.Is(err, line.ErrTrail):
 		return api.ErrTrail
 	}
 	return api.ErrCode
 }
 
-// Decode unpacks a film; where a fault lies (P7).
-func Decode(b string) (api.Film, api.Place, api.Errno) { return api.Film{}, api.Place{}, api.OK }
+// place tells where bytes are wrong: nowhere, if it is not within an area or a
+// block.
+func place(err error) api.Place {
+	var f film.Fault
+	if errors.As(err, &f) {
+		return f.Place
+	}
+	return api.Place{}
+}
 
 // Encode packs a film (P8).
 func Encode(f api.Film) (string, api.Errno) { return "", api.OK }

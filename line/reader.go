@@ -4,9 +4,10 @@ import "errors"
 
 // What can be wrong with a line.
 var (
-	ErrShort = errors.New("the line ends too early")
-	ErrCode  = errors.New("no line begins with these bytes")
-	ErrTrail = errors.New("the line goes on behind its last bit")
+	ErrShort  = errors.New("the line ends too early")
+	ErrCode   = errors.New("no line begins with these bytes")
+	ErrTrail  = errors.New("the line goes on behind its last bit")
+	ErrNumber = errors.New("a number is too great")
 )
 
 // codeBytes is how many bytes the code has.
