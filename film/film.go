@@ -1,5 +1,5 @@
-// Package film reads the bytes of films: frames that are split into blocks,
-// and blocks of four kinds.
+// Package film reads and writes the bytes of films: frames that are split into
+// blocks, and blocks of four kinds.
 package film
 
 import (
@@ -43,8 +43,28 @@ const (
 // isSize tells whether frames may have this size.
 func isSize(n int) bool { return n == 4 || n == 8 || n == 16 }
 
-// leastSide is the side of the areas that are not split any further.
-const leastSide = 4
+// IsFilm tells whether this is a film. The size is looked at first: with others
+// its square might wrap round.
+func IsFilm(f api.Film) bool {
+	if !isSize(f.Size) || len(f.Frames) > api.MaxFrames {
+		return false
+	}
+	for _, frame := range f.Frames {
+		if len(frame) != f.Size*f.Size {
+			return false
+		}
+	}
+	return true
+}
+
+const (
+	// leastSide is the side of the areas that are not split any further.
+	leastSide = 4
+	// mostSide is the side of the greatest frames.
+	mostSide = 16
+	// mostPixels is how many pixels a block may have.
+	mostPixels = mostSide * mostSide
+)
 
 // The kinds of blocks.
 const (
@@ -79,6 +99,9 @@ const (
 	stillContextX     = 310
 	stillContextY     = 334
 )
+
+// softContexts are those of a soft block's three numbers.
+var softContexts = [3]int{softContextY, softContextU, softContextV}
 
 // splitContext tells the context of the bit with which an area begins that may
 // be split.

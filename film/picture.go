@@ -55,6 +55,17 @@ func (p picture) has(a area) bool {
 	return a.x >= 0 && a.y >= 0 && a.x+a.side <= p.size && a.y+a.side <= p.size
 }
 
+// content tells what an area shows.
+func (p picture) content(a area) content {
+	c := content{side: a.side}
+	i := 0
+	for x, y := range a.points() {
+		c.pixels[i] = p.at(x, y)
+		i++
+	}
+	return c
+}
+
 // turned tells a pixel turned; outside there is nothing, not even black.
 func (p picture) turned(x, y int) [3]int {
 	if x < 0 || y < 0 {

@@ -126,7 +126,7 @@ func (r *reader) kind() (int, error) {
 func (r *reader) soft(a area) error {
 	for x, y := range a.points() {
 		c := r.now.expected(x, y)
-		for i, k := range [3]int{softContextY, softContextU, softContextV} {
+		for i, k := range softContexts {
 			n, err := r.bits.Signed(k)
 			if err != nil {
 				return err

@@ -115,4 +115,9 @@ func place(err error) api.Place {
 }
 
 // Encode packs a film (P8).
-func Encode(f api.Film) (string, api.Errno) { return "", api.OK }
+func Encode(f api.Film) (string, api.Errno) {
+	if !film.IsFilm(f) {
+		return "", api.ErrFilm
+	}
+	return film.Write(f), api.OK
+}

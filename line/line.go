@@ -45,3 +45,31 @@ func (c *chances) learn(k, bit int) {
 		c[k] -= c[k] / pace
 	}
 }
+
+// course is how far a line that is being made has come: its range, and the
+// chances.
+type course struct {
+	span    uint32
+	chances chances
+}
+
+func newCourse() course { return course{span: whole, chances: newChances()} }
+
+// take narrows the range to the part of a bit, of the context k. It tells by how
+// much the lowest code rises with that, and by how many bytes the range is
+// shifted then.
+func (c *course) take(k, bit int) (rise uint32, shifts int) {
+	cut := c.chances.cut(c.span, k)
+	if bit == 0 {
+		c.span = cut
+	} else {
+		rise = cut
+		c.span -= cut
+	}
+	c.chances.learn(k, bit)
+	for c.span < least {
+		c.span <<= 8
+		shifts++
+	}
+	return rise, shifts
+}

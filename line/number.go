@@ -1,5 +1,7 @@
 package line
 
+import "math/bits"
+
 // mostOnes is how many ones a number may begin with; each of them stands for
 // one more of its digits.
 const mostOnes = 9
@@ -54,4 +56,34 @@ func (r *Reader) Signed(k int) (int, error) {
 		return m / 2, nil
 	}
 	return -(m + 1) / 2, nil
+}
+
+// PutNumber adds a number from 0 to 1022, of the contexts from k on.
+func (d *Draft) PutNumber(k, m int) {
+	n := digits(m)
+	for i := range n {
+		d.Put(k+i, 1)
+	}
+	d.Put(k+n, 0)
+	for i := n - 1; i >= 0; i-- {
+		d.Put(k+digitContexts+n, (m+1)>>i&1)
+	}
+}
+
+// PutSigned adds a signed number from -511 to 511, of the contexts from k on.
+func (d *Draft) PutSigned(k, n int) { d.PutNumber(k, fold(n)) }
+
+// SignedBits tells how many bits a signed number has.
+func SignedBits(n int) int { return 2*digits(fold(n)) + 1 }
+
+// digits tells how many digits are put of a number, and as many ones ahead of
+// them.
+func digits(m int) int { return bits.Len(uint(m+1)) - 1 }
+
+// fold tells the number of which a signed number is made.
+func fold(n int) int {
+	if n < 0 {
+		return -2*n - 1
+	}
+	return 2 * n
 }

@@ -4,30 +4,21 @@ import "math/bits"
 
 // Writer packs bits into a line, one by one.
 type Writer struct {
-	out       []byte
-	low, span uint32
-	chances   chances
+	course
+	out []byte
+	low uint32
 }
 
 // NewWriter begins a line.
-func NewWriter() *Writer {
-	return &Writer{span: whole, chances: newChances()}
-}
+func NewWriter() *Writer { return &Writer{course: newCourse()} }
 
 // Put packs the next bit, of the context k.
 func (w *Writer) Put(k, bit int) {
-	cut := w.chances.cut(w.span, k)
-	if bit == 0 {
-		w.span = cut
-	} else {
-		w.raise(cut)
-		w.span -= cut
-	}
-	w.chances.learn(k, bit)
-	for w.span < least {
+	rise, shifts := w.take(k, bit)
+	w.raise(rise)
+	for range shifts {
 		w.out = append(w.out, byte(w.low>>24))
 		w.low <<= 8
-		w.span <<= 8
 	}
 }
 
